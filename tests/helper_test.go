@@ -89,6 +89,121 @@ func eachSet(check func(n, s int)) {
 	}
 }
 
+// where lists the sets of n points that pass a test, in ascending order.
+func where(n int, test func(s int) bool) []int {
+	var sets []int
+	for s := range power(n) {
+		if test(s) {
+			sets = append(sets, s)
+		}
+	}
+	return sets
+}
+
+// families has all families for up to three points, and some for more.
+func families(n int) [][]int {
+	if n > 3 {
+		return someFamilies(n)
+	}
+	var out [][]int
+	for code := range power(power(n)) {
+		out = append(out, where(n, func(s int) bool { return code/power(s)%2 == 1 }))
+	}
+	return out
+}
+
+// someFamilies expects at least four points.
+func someFamilies(n int) [][]int {
+	all := power(n)
+	return [][]int{
+		nil,
+		{0},
+		{all - 1},
+		{0, all - 1},
+		{1, all / 2},
+		levelByHand(n, 1),
+		levelByHand(n, n/2),
+		levelByHand(n, n-1),
+		where(n, func(s int) bool { return true }),
+		where(n, func(s int) bool { return s > 0 }),
+		where(n, func(s int) bool { return s%2 == 1 }),
+		where(n, func(s int) bool { return s < all/2 }),
+		where(n, func(s int) bool { return s%3 == 1 }),
+		where(n, func(s int) bool { return s*s%7 < 3 }),
+		where(n, func(s int) bool { return (s*s*s+5*s)%11 < 4 }),
+	}
+}
+
+func eachFamily(check func(n int, f []int)) {
+	for n := 1; n <= impl.PointsMax; n++ {
+		for _, f := range families(n) {
+			check(n, f)
+		}
+	}
+}
+
+// eachTwoFamilies calls a check for each two families, and each one with itself, in both orders.
+func eachTwoFamilies(check func(n int, f, g []int)) {
+	eachFamily(func(n int, f []int) {
+		for _, g := range families(n) {
+			check(n, f, g)
+		}
+	})
+}
+
+type numberedList struct {
+	n    int
+	list []int
+}
+
+// badLists are lists for numbers of points out of their range, and lists with a number that is no set.
+func badLists() []numberedList {
+	var out []numberedList
+	for _, n := range badCounts {
+		for _, list := range [][]int{nil, {}, {0}, {0, 1}} {
+			out = append(out, numberedList{n, list})
+		}
+	}
+	for n := 1; n <= impl.PointsMax; n++ {
+		for _, bad := range []int{math.MinInt, -power(n), -1, power(n), power(n) + 1, 1 << 32, 1<<32 + 1, math.MaxInt} {
+			for _, list := range [][]int{{bad}, {bad, 0, 1}, {0, bad, 1}, {0, 1, bad}} {
+				out = append(out, numberedList{n, list})
+			}
+		}
+	}
+	return out
+}
+
+// badFamilies are badLists, and lists of sets that do not ascend.
+func badFamilies() []numberedList {
+	out := badLists()
+	for n := 1; n <= impl.PointsMax; n++ {
+		last := power(n) - 1
+		all := where(n, func(s int) bool { return true })
+		for _, list := range [][]int{
+			{0, 0}, {last, last}, {1, 0}, {last, 0}, {0, 1, 0}, {0, 0, 1}, {0, 1, 1},
+			append(slices.Clone(all), last), append(slices.Clone(all), 0), slices.Concat(all, all), reversed(all),
+		} {
+			out = append(out, numberedList{n, list})
+		}
+	}
+	return out
+}
+
+func reversed(list []int) []int {
+	out := slices.Clone(list)
+	slices.Reverse(out)
+	return out
+}
+
+// scribble writes over all that belongs to a list, up to its capacity.
+func scribble(list []int) {
+	list = list[:cap(list)]
+	for i := range list {
+		list[i] = -7
+	}
+}
+
 func wantNumber(t *testing.T, what string, got int, ok bool, want int) {
 	t.Helper()
 	if !ok || got != want {
