@@ -77,6 +77,10 @@ func pointIn(n int, p int) bool {
 	return 0 <= p && p < n
 }
 
+func sizeIn(n int, k int) bool {
+	return pointsIn(n) && 0 <= k && k <= n
+}
+
 func allPoints(n int) set {
 	return 1<<n - 1
 }
@@ -174,7 +178,7 @@ func SetRank(n int, s int) (int, bool) {
 
 // SetUnrank returns the set with a size k from 0 to n and an index, and true.
 func SetUnrank(n int, k int, rank int) (int, bool) {
-	if !pointsIn(n) || k < 0 || k > n || rank < 0 || rank >= choose(n, k) {
+	if !sizeIn(n, k) || rank < 0 || rank >= choose(n, k) {
 		return 0, false
 	}
 	return int(unranked(k, rank)), true
