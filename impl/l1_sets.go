@@ -32,6 +32,14 @@ func (s set) without(p int) set {
 	return s &^ (1 << p)
 }
 
+// moved expects points.
+func (s set) moved(i int, k int) set {
+	if !s.has(i) || s.has(k) {
+		return s
+	}
+	return s.without(i).with(k)
+}
+
 func (s set) size() int {
 	return bits.OnesCount(uint(s))
 }
@@ -161,11 +169,7 @@ func SetMoved(n int, s int, i int, k int) (int, bool) {
 	if !SetIn(n, s) || !pointIn(n, i) || !pointIn(n, k) {
 		return 0, false
 	}
-	moved := set(s)
-	if moved.has(i) && !moved.has(k) {
-		moved = moved.without(i).with(k)
-	}
-	return int(moved), true
+	return int(set(s).moved(i, k)), true
 }
 
 // SetRank returns the index, from 0 on, of a set among all sets of its size in ascending order, and true.
