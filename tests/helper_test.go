@@ -238,3 +238,20 @@ func wantText(t *testing.T, what string, got string, ok bool, want string) {
 		t.Errorf("%s returned %q, %v, want %q, true", what, got, ok, want)
 	}
 }
+
+// checkNoState asks for the answers about all families and the lists that are none, and once more in the opposite order.
+func checkNoState(t *testing.T, answers func(n int, f []int) []string) {
+	t.Helper()
+	var asked []numberedList
+	eachFamily(func(n int, f []int) { asked = append(asked, numberedList{n, f}) })
+	asked = append(asked, badFamilies()...)
+	first := make([][]string, len(asked))
+	for i, x := range asked {
+		first[i] = answers(x.n, x.list)
+	}
+	for i, x := range slices.Backward(asked) {
+		if again := answers(x.n, x.list); !slices.Equal(again, first[i]) {
+			t.Errorf("for %d points and %v, the answers are %v, and were %v", x.n, x.list, again, first[i])
+		}
+	}
+}

@@ -787,16 +787,5 @@ func shadowAnswers(n int, f []int) []string {
 }
 
 func TestShadowsKeepNoState(t *testing.T) {
-	var asked []numberedList
-	eachFamily(func(n int, f []int) { asked = append(asked, numberedList{n, f}) })
-	asked = append(asked, badFamilies()...)
-	answers := make([][]string, len(asked))
-	for i, x := range asked {
-		answers[i] = shadowAnswers(x.n, x.list)
-	}
-	for i, x := range slices.Backward(asked) {
-		if again := shadowAnswers(x.n, x.list); !slices.Equal(again, answers[i]) {
-			t.Errorf("for %d points and %v, the answers are %v, and were %v", x.n, x.list, again, answers[i])
-		}
-	}
+	checkNoState(t, shadowAnswers)
 }

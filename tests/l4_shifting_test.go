@@ -561,16 +561,5 @@ func shiftAnswers(n int, f []int) []string {
 }
 
 func TestShiftingKeepsNoState(t *testing.T) {
-	var asked []numberedList
-	eachFamily(func(n int, f []int) { asked = append(asked, numberedList{n, f}) })
-	asked = append(asked, badFamilies()...)
-	answers := make([][]string, len(asked))
-	for i, x := range asked {
-		answers[i] = shiftAnswers(x.n, x.list)
-	}
-	for i, x := range slices.Backward(asked) {
-		if again := shiftAnswers(x.n, x.list); !slices.Equal(again, answers[i]) {
-			t.Errorf("for %d points and %v, the answers are %v, and were %v", x.n, x.list, again, answers[i])
-		}
-	}
+	checkNoState(t, shiftAnswers)
 }
