@@ -151,6 +151,46 @@ func eachTwoFamilies(check func(n int, f, g []int)) {
 	})
 }
 
+// mixed makes a number of a set and a seed, without a rule that one could see in the sets.
+func mixed(s, seed int) uint32 {
+	x := uint32(s)*2654435761 + uint32(seed)*40503 + 1
+	for range 3 {
+		x ^= x >> 15
+		x *= 2246822519
+		x ^= x >> 13
+	}
+	return x
+}
+
+// scatteredFamilies has families with few, some and most of all sets.
+func scatteredFamilies(n, seeds int) [][]int {
+	var out [][]int
+	for seed := range seeds {
+		for most := range uint32(7) {
+			out = append(out, where(n, func(s int) bool { return mixed(s, seed)%8 <= most }))
+		}
+	}
+	return out
+}
+
+// eachOfManyFamilies calls a check for all families of up to three points, all families of sets of one size of
+// up to five, and some others.
+func eachOfManyFamilies(check func(n int, f []int)) {
+	eachFamily(check)
+	eachEvenFamily(func(n, k int, f []int) { check(n, f) })
+	for n := 4; n <= impl.PointsMax; n++ {
+		for _, f := range scatteredFamilies(n, 12) {
+			check(n, f)
+		}
+	}
+}
+
+func eachFamilyOfFourPoints(check func(f []int)) {
+	for code := range power(16) {
+		check(where(4, func(s int) bool { return code>>s&1 == 1 }))
+	}
+}
+
 type numberedList struct {
 	n    int
 	list []int

@@ -103,12 +103,11 @@ func TestPromise28ShadowOf(t *testing.T) {
 }
 
 func TestShadowsOfAllFamiliesOfFourPoints(t *testing.T) {
-	for code := range power(16) {
-		f := where(4, func(s int) bool { return code>>s&1 == 1 })
+	eachFamilyOfFourPoints(func(f []int) {
 		checkShadow(t, 4, f)
 		up, ok := impl.ShadowUp(4, f)
 		wantList(t, fmt.Sprintf("ShadowUp(4, %v)", f), up, ok, upperByHand(4, f))
-	}
+	})
 }
 
 func TestPromise29ShadowUp(t *testing.T) {

@@ -83,40 +83,6 @@ func pressAllByHand(n int, f []int) []int {
 	return f
 }
 
-// mixed makes a number less than 8 of a set and a seed, without a rule that one could see in the sets.
-func mixed(s, seed int) uint32 {
-	x := uint32(s)*2654435761 + uint32(seed)*40503 + 1
-	for range 3 {
-		x ^= x >> 15
-		x *= 2246822519
-		x ^= x >> 13
-	}
-	return x % 8
-}
-
-// scatteredFamilies has families with few, some and most of all sets.
-func scatteredFamilies(n, seeds int) [][]int {
-	var out [][]int
-	for seed := range seeds {
-		for most := range uint32(7) {
-			out = append(out, where(n, func(s int) bool { return mixed(s, seed) <= most }))
-		}
-	}
-	return out
-}
-
-// eachShiftFamily calls a check for all families of up to three points, all families of sets of one size of
-// up to five, and some others.
-func eachShiftFamily(check func(n int, f []int)) {
-	eachFamily(check)
-	eachEvenFamily(func(n, k int, f []int) { check(n, f) })
-	for n := 4; n <= impl.PointsMax; n++ {
-		for _, f := range scatteredFamilies(n, 12) {
-			check(n, f)
-		}
-	}
-}
-
 func checkShift(t *testing.T, n int, f []int, i, k int) {
 	t.Helper()
 	shifted, ok := impl.ShiftOf(n, f, i, k)
@@ -144,13 +110,13 @@ func eachTwoPoints(n int, check func(i, k int)) {
 }
 
 func TestPromise35ShiftOf(t *testing.T) {
-	eachShiftFamily(func(n int, f []int) {
+	eachOfManyFamilies(func(n int, f []int) {
 		eachTwoPoints(n, func(i, k int) { checkShift(t, n, f, i, k) })
 	})
 }
 
 func TestPromise36ShiftOfOnceMore(t *testing.T) {
-	eachShiftFamily(func(n int, f []int) {
+	eachOfManyFamilies(func(n int, f []int) {
 		eachTwoPoints(n, func(i, k int) {
 			once, _ := impl.ShiftOf(n, f, i, k)
 			more, ok := impl.ShiftOf(n, once, i, k)
@@ -174,7 +140,7 @@ func checkShifted(t *testing.T, n int, f []int) {
 }
 
 func TestPromise37ShiftedIn(t *testing.T) {
-	eachShiftFamily(func(n int, f []int) {
+	eachOfManyFamilies(func(n int, f []int) {
 		if shiftedByHand(n, f) {
 			checkShifted(t, n, f)
 		} else if impl.ShiftedIn(n, f) {
@@ -209,7 +175,7 @@ func sumByHand(n int, f []int) int {
 }
 
 func TestPromise38ShiftSum(t *testing.T) {
-	eachShiftFamily(func(n int, f []int) {
+	eachOfManyFamilies(func(n int, f []int) {
 		total, ok := impl.ShiftSum(n, f)
 		wantNumber(t, fmt.Sprintf("ShiftSum(%d, %v)", n, f), total, ok, sumByHand(n, f))
 		degrees, _ := impl.FamilyDegrees(n, f)
@@ -222,7 +188,7 @@ func TestPromise38ShiftSum(t *testing.T) {
 }
 
 func TestShiftPress(t *testing.T) {
-	eachShiftFamily(func(n int, f []int) {
+	eachOfManyFamilies(func(n int, f []int) {
 		for p := range n {
 			pressed, ok := impl.ShiftPress(n, f, p)
 			wantList(t, fmt.Sprintf("ShiftPress(%d, %v, %d)", n, f, p), pressed, ok, pressByHand(n, f, p))
@@ -261,26 +227,25 @@ func checkPressAll(t *testing.T, n int, f []int) {
 }
 
 func TestShiftAllAndPressAll(t *testing.T) {
-	eachShiftFamily(func(n int, f []int) {
+	eachOfManyFamilies(func(n int, f []int) {
 		checkShiftAll(t, n, f)
 		checkPressAll(t, n, f)
 	})
 }
 
 func TestShiftAllAndPressAllOfFourPoints(t *testing.T) {
-	for code := range power(16) {
-		f := where(4, func(s int) bool { return code>>s&1 == 1 })
+	eachFamilyOfFourPoints(func(f []int) {
 		all, ok := impl.ShiftAll(4, f)
 		wantList(t, fmt.Sprintf("ShiftAll(4, %v)", f), all, ok, shiftAllByHand(4, f))
 		pressed, ok := impl.PressAll(4, f)
 		wantList(t, fmt.Sprintf("PressAll(4, %v)", f), pressed, ok, pressAllByHand(4, f))
-	}
+	})
 }
 
 // In the orders of the document, no shift and no pressing makes an earlier one change the family again: once
 // through all of them is enough for each family, and there is none that needs a second time.
 func TestShiftAllAndPressAllAreOneRound(t *testing.T) {
-	eachShiftFamily(func(n int, f []int) {
+	eachOfManyFamilies(func(n int, f []int) {
 		shifted, pressed := f, f
 		eachLesser(n, func(i, k int) { shifted, _ = impl.ShiftOf(n, shifted, i, k) })
 		for p := range n {
@@ -294,7 +259,7 @@ func TestShiftAllAndPressAllAreOneRound(t *testing.T) {
 }
 
 func TestPressedIn(t *testing.T) {
-	eachShiftFamily(func(n int, f []int) {
+	eachOfManyFamilies(func(n int, f []int) {
 		want := pressedByHand(n, f)
 		if got := impl.PressedIn(n, f); got != want {
 			t.Errorf("PressedIn(%d, %v) is %v, want %v", n, f, got, want)
