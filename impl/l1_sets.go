@@ -44,6 +44,14 @@ func (s set) size() int {
 	return bits.OnesCount(uint(s))
 }
 
+func (s set) partOf(x set) bool {
+	return s&^x == 0
+}
+
+func (s set) partOfOther(x set) bool {
+	return s != x && s.partOf(x)
+}
+
 // points gives the points in ascending order.
 func (s set) points() iter.Seq[int] {
 	return func(yield func(int) bool) {
