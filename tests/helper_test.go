@@ -1,6 +1,7 @@
 package tests
 
 import (
+	"cmp"
 	"math"
 	"slices"
 	"testing"
@@ -160,6 +161,13 @@ func mixed(s, seed int) uint32 {
 		x ^= x >> 13
 	}
 	return x
+}
+
+// inDisorder puts sets in an order without a rule that one could see.
+func inDisorder(sets []int, seed int) []int {
+	order := slices.Clone(sets)
+	slices.SortFunc(order, func(a, b int) int { return cmp.Compare(mixed(a, seed), mixed(b, seed)) })
+	return order
 }
 
 // scatteredFamilies has families with few, some and most of all sets.

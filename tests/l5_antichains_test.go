@@ -166,8 +166,7 @@ func chainByHand(n, s int) []int {
 
 // fewOf takes m of some sets, without a rule that one could see.
 func fewOf(sets []int, m, seed int) []int {
-	few := slices.Clone(sets)
-	slices.SortFunc(few, func(a, b int) int { return cmp.Compare(mixed(a, seed), mixed(b, seed)) })
+	few := inDisorder(sets, seed)
 	few = few[:min(m, len(few))]
 	slices.Sort(few)
 	return few
