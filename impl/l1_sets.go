@@ -52,6 +52,10 @@ func (s set) partOfOther(x set) bool {
 	return s != x && s.partOf(x)
 }
 
+func (s set) meets(x set) bool {
+	return s&x != 0
+}
+
 // points gives the points in ascending order.
 func (s set) points() iter.Seq[int] {
 	return func(yield func(int) bool) {
