@@ -56,6 +56,18 @@ func (s set) meets(x set) bool {
 	return s&x != 0
 }
 
+func (s set) union(x set) set {
+	return s | x
+}
+
+func (s set) common(x set) set {
+	return s & x
+}
+
+func (s set) less(x set) set {
+	return s &^ x
+}
+
 // points gives the points in ascending order.
 func (s set) points() iter.Seq[int] {
 	return func(yield func(int) bool) {
